@@ -352,6 +352,8 @@ func checkRises(t *testing.T, less, more, n int) {
 		{"Clamp below n", Clamp(less, api.MinInt, n), Clamp(more, api.MinInt, n)},
 		{"Clamp from 0 to n", Clamp(less, 0, n), Clamp(more, 0, n)},
 		{"Clamp from n to 0", Clamp(less, n, 0), Clamp(more, n, 0)},
+		{"Clamp, low, up to 5", Clamp(n, less, 5), Clamp(n, more, 5)},
+		{"Clamp, high, from 5 on", Clamp(n, 5, less), Clamp(n, 5, more)},
 		{"Kept", Kept(span(n, less)).Dur, Kept(span(n, more)).Dur},
 		{"End, start", End(span(less, n)), End(span(more, n))},
 		{"End, duration", End(span(n, less)), End(span(n, more))},
